@@ -248,7 +248,7 @@ func FuzzAny(f *testing.F) { // P1, P4.1, P4.2, P4.3
 	f.Add([]byte{0, 1, 40, 12, 0, 0, 0, 4, 17, 13, 1, 5, 15, 0, 128, 7, 1, 4, 9, 1, 0}, 100)
 	f.Add([]byte{10, 1, 255, 5, 0, 0, 0, 1, 9, 10, 1, 4}, -1)
 	f.Fuzz(func(t *testing.T, script []byte, room int) {
-		play(t, New(room), &plainDisk{room: max(room, 0), arms: -1}, script)
+		play(t, New(room), &plainDisk{room: max(room, 0), arms: -1}, script[:min(len(script), 3*300)])
 	})
 }
 
