@@ -137,6 +137,8 @@ func TestExample(t *testing.T) { // P23.2
 	lockT := locks(1, 0, x, key(string(entry().Key), false))
 	sends(t, "ahead of Begin", c, c.Retry())
 	sends(t, "Begin", c, c.Begin(), lockT)
+	sends(t, "Begin again", c, c.Begin())
+	outstanding(t, "Begin again", c, lockT)
 	decide := decides(2, 1, x, 7, failed(api.ErrName, 0))
 	sends(t, "Granted", c, c.Result(0, 1, granted(7)), decide)
 	finish := finishes(3, 0, x, 7)
