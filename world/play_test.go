@@ -444,6 +444,36 @@ func TestPlays(t *testing.T) { // P26.1 to P26.3
 	}
 }
 
+func TestFullDisks(t *testing.T) { // P26.1, P26.2: also where there is no room; and whoever loses patience soon, or late
+	open := 0
+	for seed := range uint64(60) {
+		r := rand1(seed + 500)
+		o := someOptions()[r.IntN(4)]
+		o.Room = 1500 + r.IntN(1<<(10+r.IntN(8)))
+		o.Every, o.Patience, o.Keep, o.Limit = 1+r.IntN(3), 1+r.IntN(20), r.IntN(20), 1+r.IntN(4)
+		w, e := New(1+int(seed%5), cuts()[r.IntN(6)], o)
+		if e != api.OK {
+			t.Fatalf("New = %v", e)
+		}
+		j := &judged{T: t, World: w, what: fmt.Sprint("seed ", seed, ", room ", o.Room), seen: map[string]int{}}
+		w.Calm(15)
+		for i, e := range anyEvents(r, 1+int(seed/5)%4, 2500, anyRequests(r, 40)) {
+			w.Do(e)
+			if i%397 == 0 {
+				j.state()
+				w.Calm(i % 5)
+			}
+		}
+		w.Calm(40)
+		j.order()
+		j.state()
+		open += len(w.Open())
+	}
+	if open < 50 {
+		t.Errorf("only %d requests found no room", open)
+	}
+}
+
 func TestLongPlays(t *testing.T) { // P26.3: behind as many events as there may be
 	for seed := range uint64(6) {
 		play(t, 1000+seed*7, 10000, map[string]int{})
